@@ -52,14 +52,12 @@ func lineFault(line string) api.Errno {
 // modelFault is what is wrong with a text, and in which line.
 func modelFault(s string) (api.Errno, int) {
 	lines := unfolded(s)
+	var open []string // the names of the parts that are not at their ends
+	var behind []bool // which of these have had a part
 	for i, line := range lines {
 		if err := lineFault(line); err != api.OK {
 			return err, i
 		}
-	}
-	var open []string // the names of the parts that are not at their ends
-	var behind []bool // which of these have had a part
-	for i, line := range lines {
 		name, value, params := taken(line)
 		if i > 0 && len(open) == 0 {
 			return api.ErrForm, i

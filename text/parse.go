@@ -13,14 +13,7 @@ func Parse(text string) (api.Part, error) {
 	if len(lines) > api.MaxLines {
 		return api.Part{}, api.ErrLimit
 	}
-	var t tree
-	for i, line := range lines {
-		l, err := readLine(line)
-		if err != nil {
-			return api.Part{}, &api.At{Err: api.Tell(err), Place: i}
-		}
-		t.lines = append(t.lines, l)
-	}
+	t := tree{lines: lines}
 	p, err := t.whole()
 	if err != nil {
 		return api.Part{}, &api.At{Err: api.Tell(err), Place: t.at}
@@ -28,54 +21,71 @@ func Parse(text string) (api.Part, error) {
 	return p, nil
 }
 
-// tree makes a part of lines.
+// tree makes a part of lines. It reads a line only when it comes to it: so the first line that has a fault is told, whatever that fault is.
 type tree struct {
-	lines []api.Line
-	at    int // the line that is next
+	lines []string
+	at    int // the line to which it has come
 }
 
 // whole reads the part that all of the lines are.
 func (t *tree) whole() (api.Part, error) {
-	p, err := t.part(1)
-	if err == nil && t.at < len(t.lines) {
-		err = api.ErrForm
+	first, err := t.line()
+	if err != nil {
+		return api.Part{}, err
 	}
-	return p, err
+	p, err := t.part(first, 1)
+	if err != nil {
+		return api.Part{}, err
+	}
+	if t.at++; t.at == len(t.lines) {
+		return p, nil
+	}
+	if _, err := t.line(); err != nil {
+		return api.Part{}, err
+	}
+	return api.Part{}, api.ErrForm
 }
 
-// part reads a part, which is one of so many that stand within each other.
-func (t *tree) part(depth int) (api.Part, error) {
-	name, err := t.begin(depth)
+// line reads the line to which it has come.
+func (t *tree) line() (api.Line, error) {
+	if t.at == len(t.lines) {
+		return api.Line{}, api.ErrEmpty
+	}
+	return readLine(t.lines[t.at])
+}
+
+// part reads a part up to its last line: one of so many that stand within each other.
+func (t *tree) part(first api.Line, depth int) (api.Part, error) {
+	name, err := beginOf(first, depth)
 	if err != nil {
 		return api.Part{}, err
 	}
 	p := api.Part{Name: name}
-	for t.at < len(t.lines) {
-		switch l := t.lines[t.at]; {
+	for {
+		t.at++
+		l, err := t.line()
+		if err != nil {
+			return api.Part{}, err
+		}
+		switch {
 		case l.Name == begin:
-			inner, err := t.part(depth + 1)
+			inner, err := t.part(l, depth+1)
 			if err != nil {
 				return api.Part{}, err
 			}
 			p.Parts = append(p.Parts, inner)
 		case l.Name == end:
-			return p, t.end(name)
+			return p, checkEnd(l, name)
 		case len(p.Parts) > 0:
 			return api.Part{}, api.ErrOrder
 		default:
 			p.Lines = append(p.Lines, l)
-			t.at++
 		}
 	}
-	return api.Part{}, api.ErrEmpty
 }
 
-// begin goes past the line with which a part begins, and tells the part's name.
-func (t *tree) begin(depth int) (string, error) {
-	if t.at == len(t.lines) {
-		return "", api.ErrEmpty
-	}
-	l := t.lines[t.at]
+// beginOf tells the name of the part that begins with a line.
+func beginOf(l api.Line, depth int) (string, error) {
 	if l.Name != begin || len(l.Params) > 0 {
 		return "", api.ErrForm
 	}
@@ -86,16 +96,13 @@ func (t *tree) begin(depth int) (string, error) {
 	if depth > api.MaxDepth {
 		return "", api.ErrLimit
 	}
-	t.at++
 	return name, nil
 }
 
-// end goes past the line with which the part of that name ends.
-func (t *tree) end(name string) error {
-	l := t.lines[t.at]
+// checkEnd says whether the part of that name may end with a line.
+func checkEnd(l api.Line, name string) error {
 	if value, err := readName(l.Value); err != nil || value != name || len(l.Params) > 0 {
 		return api.ErrForm
 	}
-	t.at++
 	return nil
 }

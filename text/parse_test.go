@@ -209,7 +209,7 @@ func TestPartFaults(t *testing.T) {
 	}
 }
 
-// TestFirstFault: of several faults the first one is told; how lines stand is asked when all of them have been read.
+// TestFirstFault: of several lines that have a fault the first one is told, whatever the fault is; within a line what it is itself comes ahead of how it stands.
 func TestFirstFault(t *testing.T) {
 	for _, c := range []struct {
 		text  string
@@ -218,14 +218,32 @@ func TestFirstFault(t *testing.T) {
 	}{
 		{"BEGIN:A\n_:1\nno\nEND:A", api.ErrName, 1},
 		{"BEGIN:A\nno\n_:1\nEND:A", api.ErrForm, 1},
+		{"BEGIN:A\nno\nEND:B", api.ErrForm, 1},
 		{"X:1\nEND:B\n", api.ErrForm, 0},
+		{"X:1\nbad", api.ErrForm, 0},
+		{"X:1\n_:1", api.ErrForm, 0},
+		{"END:A\n\n_:1", api.ErrForm, 0},
+		{"BEGIN:a b\nno", api.ErrName, 0},
+		{"BEGIN;P=1:A\n_:1", api.ErrForm, 0},
 		{"BEGIN:A\nEND:B\nX:1", api.ErrForm, 1},
+		{"BEGIN:A\nEND:B\n_:1", api.ErrForm, 1},
+		{"BEGIN:A\nBEGIN:b_\nno\nEND:A", api.ErrName, 1},
 		{"BEGIN:A\nBEGIN:B\nEND:B\nY:1\nEND:B", api.ErrOrder, 3},
-		{"X:1\n_:1", api.ErrName, 1},
-		{"BEGIN:a b\nno", api.ErrForm, 1},
-		{"BEGIN:A\nBEGIN:B\nEND:B\nY:1\nEND:A\n\n_:1", api.ErrForm, 5},
-		{"BEGIN:A\nEND:A\nX:1\n_:1", api.ErrName, 3},
-		{strings.Repeat("BEGIN:A\n", 9) + "X:\x00", api.ErrForm, 9},
+		{"BEGIN:A\nBEGIN:B\nEND:B\nX:1\nbad", api.ErrOrder, 3},
+		{"BEGIN:A\nBEGIN:B\nEND:B\nY:1\nEND:A\n\n_:1", api.ErrOrder, 3},
+		{"BEGIN:A\nEND:A\nX:1\n_:1", api.ErrForm, 2},
+		{strings.Repeat("BEGIN:A\n", 9) + "X:\x00", api.ErrLimit, 8},
+
+		// In one line what it is itself, and then how it stands.
+		{"_:1\nBEGIN:A\nEND:A", api.ErrName, 0},
+		{"BEGIN;_=1:A\nEND:A", api.ErrName, 0},
+		{"BEGIN;P=\":a b\nEND:A", api.ErrForm, 0},
+		{"BEGIN:A\nBEGIN:B\nEND:B\n_:1\nEND:A", api.ErrName, 3},
+		{"BEGIN:A\nBEGIN:B\nEND:B\nno\nEND:A", api.ErrForm, 3},
+		{"BEGIN:A\nEND;_=1:A\n", api.ErrName, 1},
+		{"BEGIN:A\nEND:A\n_:1\n", api.ErrName, 2},
+		{"BEGIN:A\n_:1", api.ErrName, 1},
+		{strings.Repeat("BEGIN:A\n", 8) + "BEGIN;_=1:A", api.ErrName, 8},
 	} {
 		got, err := text.Parse(c.text)
 		wantPlace(t, at("9.4: Parse(%q)", c.text), got, err, c.want, c.place)
