@@ -25,12 +25,12 @@ type act struct {
 }
 
 type modelHouse struct {
-	names  []string
-	books  map[string]*book.Book
-	zones  map[string]string
-	clocks map[string]*zone.Zone
-	acts   []act
-	me     string
+	names []string
+	books map[string]*book.Book
+	zones map[string]string
+	here  map[string]string
+	acts  []act
+	me    string
 }
 
 // modelForms are the lines that there are.
@@ -94,7 +94,6 @@ func (m *modelHouse) user(name string) []string {
 	for n, text := range m.zones {
 		m.books[name].SetZone(n, text)
 	}
-	m.clocks[name], _ = zone.Fixed(0)
 	return []string{"ok"}
 }
 
@@ -114,14 +113,10 @@ func (m *modelHouse) do(w []string, block string) []string {
 	b := m.books[m.me]
 	switch w[0] {
 	case "here":
-		text, ok := m.zones[w[1]]
-		if w[1] == "-" || w[1] == "" {
-			text, ok = plain, true
-		}
-		if !ok {
+		if _, ok := m.zones[w[1]]; !ok && w[1] != "-" && w[1] != "" {
 			return fault(api.ErrMissing)
 		}
-		m.clocks[m.me], _ = zone.Parse(text)
+		m.here[m.me] = w[1]
 		return []string{"ok"}
 	case "put":
 		p, err := text.Parse(block)
@@ -286,19 +281,32 @@ func (m *modelHouse) sees(name string) api.Errno {
 	return api.OK
 }
 
+// clocks are mine: those of the zone that I named last, read anew each time.
+func (m *modelHouse) clocks() *zone.Zone {
+	text := m.zones[m.here[m.me]]
+	if here := m.here[m.me]; here == "-" || here == "" {
+		text = plain
+	}
+	z, err := zone.Parse(text)
+	if err != nil {
+		panic(err)
+	}
+	return z
+}
+
 // moment is that of a time by my clocks.
 func (m *modelHouse) moment(s string) (api.Instant, api.Errno) {
 	l, n := modelTime(s)
 	if n != api.OK {
 		return 0, n
 	}
-	x, err := m.clocks[m.me].Resolve(l, api.Early)
+	x, err := m.clocks().Resolve(l, api.Early)
 	return x, api.Tell(err)
 }
 
 // shown is the time that my clocks show.
 func (m *modelHouse) shown(x api.Instant) string {
-	l, err := m.clocks[m.me].Local(x)
+	l, err := m.clocks().Local(x)
 	if err != nil {
 		return "-"
 	}
@@ -494,7 +502,7 @@ func (d drawer) line() (line, block string) {
 	case 0:
 		return "user " + d.name(), ""
 	case 1:
-		return "zone " + d.of("X", "Y", "Y", "!"), d.of(central, eastern, plain, "era +05:30 -", "era", "")
+		return "zone " + d.of("X", "Y", "Y", "-", "!"), d.of(central, eastern, plain, "era +05:30 -", "era", "")
 	case 2, 3, 4, 5:
 		return "as " + d.name(), ""
 	case 6:
@@ -551,7 +559,7 @@ func TestSessionDrawn(t *testing.T) {
 	d := drawer{rand.New(rand.NewSource(143))}
 	seen := map[string]int{}
 	for range 600 {
-		m := &modelHouse{books: map[string]*book.Book{}, zones: map[string]string{}, clocks: map[string]*zone.Zone{}}
+		m := &modelHouse{books: map[string]*book.Book{}, zones: map[string]string{}, here: map[string]string{}}
 		var lines, want []string
 		add := func(line, block string) {
 			lines = append(lines, line)

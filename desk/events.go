@@ -80,13 +80,13 @@ func (h *house) moment(s string) (api.Instant, error) {
 	if err != nil {
 		return 0, err
 	}
-	return h.me.clocks.Resolve(t, api.Early)
+	return h.myClocks().Resolve(t, api.Early)
 }
 
 // shown is the time that one's clocks show.
 func (h *house) shown(t api.Instant) string {
 	const none = "-"
-	l, err := h.me.clocks.Local(t)
+	l, err := h.myClocks().Local(t)
 	if err != nil {
 		return none
 	}

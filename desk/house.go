@@ -15,10 +15,14 @@ const maxPeople = 60
 // house is where people share their books.
 type house struct {
 	people map[string]*person
-	me     *person    // the one by whom all is done; nobody, as long as none was named
-	zones  *book.Book // has all zones, and no events
-	texts  []zoneText // of all zones
+	me     *person               // the one by whom all is done; nobody, as long as none was named
+	zones  *book.Book            // has all zones, and no events
+	clocks map[string]*zone.Zone // of all zones, as they were told last
+	texts  []zoneText            // of all zones
 }
+
+// noZone is the name of the zone of offset 0, which no zone that is told can have.
+const noZone = ""
 
 // zoneText is a zone as it was told, for the books of those who come later.
 type zoneText struct{ name, text string }
@@ -27,7 +31,7 @@ type zoneText struct{ name, text string }
 type person struct {
 	name    string
 	book    *book.Book
-	clocks  *zone.Zone
+	here    string                    // the zone by whose clocks they tell times, and are told them
 	shares  map[string]int            // how much others may see, by their names
 	inbox   []letter                  // what is not answered
 	invited map[string]map[string]int // what others answered: by the event's name, and theirs
@@ -41,7 +45,9 @@ type letter struct {
 
 // newHouse has nobody.
 func newHouse() *house {
-	return &house{people: map[string]*person{}, zones: book.New()}
+	// There always is a zone of offset 0.
+	zero, _ := zone.Fixed(0)
+	return &house{people: map[string]*person{}, zones: book.New(), clocks: map[string]*zone.Zone{noZone: zero}}
 }
 
 // person is somebody of a name.
@@ -64,11 +70,7 @@ func (h *house) enter(name string) error {
 	if len(h.people) >= maxPeople {
 		return api.ErrLimit
 	}
-	clocks, err := zone.Fixed(0)
-	if err != nil {
-		return err
-	}
-	p := &person{name: name, book: book.New(), clocks: clocks, shares: map[string]int{}, invited: map[string]map[string]int{}}
+	p := &person{name: name, book: book.New(), here: noZone, shares: map[string]int{}, invited: map[string]map[string]int{}}
 	for _, z := range h.texts {
 		if err := p.book.SetZone(z.name, z.text); err != nil {
 			return err
@@ -83,6 +85,11 @@ func (h *house) setZone(name, block string) error {
 	if err := h.zones.SetZone(name, block); err != nil {
 		return err
 	}
+	clocks, err := h.zones.Zone(name)
+	if err != nil {
+		return err
+	}
+	h.clocks[name] = clocks
 	for _, p := range h.people {
 		if err := p.book.SetZone(name, block); err != nil {
 			return err
@@ -104,23 +111,20 @@ func (h *house) as(name string) error {
 	return nil
 }
 
-// here says by which clocks somebody tells times, and is told them.
+// here says by which zone's clocks somebody tells times, and is told them. The name is kept, not the clocks: the zone may be set anew.
 func (h *house) here(name string) error {
-	clocks, err := h.clocksOf(name)
-	if err != nil {
-		return err
+	if name == "-" {
+		name = noZone
 	}
-	h.me.clocks = clocks
+	if _, ok := h.clocks[name]; !ok {
+		return api.ErrMissing
+	}
+	h.me.here = name
 	return nil
 }
 
-// clocksOf are those of a zone, as it is now.
-func (h *house) clocksOf(name string) (*zone.Zone, error) {
-	if name == "-" {
-		return zone.Fixed(0)
-	}
-	return h.zones.Zone(name)
-}
+// myClocks are those of one's zone, as it is now.
+func (h *house) myClocks() *zone.Zone { return h.clocks[h.me.here] }
 
 // put puts an event into one's book.
 func (h *house) put(block string) error {

@@ -154,9 +154,8 @@ func TestHere(t *testing.T) {
 		ok("here Y"),
 		[]step{{show, "0"}, {"show 20240304T100000 20240304T110000", "1\n20240304T100000 20240304T110000 a tea"}},
 		fails(api.ErrMissing, "here Q", "here y", "here ann"),
-		ok(zoneLine("Y", "era +08:00 -")),
-		[]step{{"show 20240304T100000 20240304T110000", "1\n20240304T100000 20240304T110000 a tea"}},
-		ok("here Y"),
+		ok("here X", "here Y", zoneLine("Y", "era +08:00 -")),
+		[]step{{"show 20240304T100000 20240304T110000", "0"}},
 		[]step{{"show 20240304T170000 20240304T180000", "1\n20240304T170000 20240304T180000 a tea"}},
 		ok("share bob all", "as bob"),
 		[]step{{"look ann 20240304T090000 20240304T100000", "1\n20240304T090000 20240304T100000 a tea"}},
@@ -180,6 +179,48 @@ func TestHere(t *testing.T) {
 			{"show 20241027T020000 20241027T023000", "1\n20241027T021500 20241027T022500 a "},
 			{"show 20240331T023000 20240331T033000", "2\n20240331T015500 20240331T030500 d \n20240331T032500 20240331T033500 e "},
 		},
+	)...)
+}
+
+// TestHereAnew: clocks are those of the zone when times are told or read, not those that it had when it was named.
+func TestHereAnew(t *testing.T) {
+	const (
+		atZero   = " 20240304T090000 20240304T100000"
+		eastward = " 20240304T120000 20240304T130000"
+		westward = " 20240304T040000 20240304T050000"
+	)
+	east, west := zoneLine("Y", "era +03:00 -"), zoneLine("Y", "era -05:00 -")
+	tells := func(line, times string) step { return step{line + times, "1\n" + times[1:] + " a tea"} }
+	wantSteps(t, "14.3: a zone that is set anew", join(house(),
+		ok(putLine(tea("a", 0)), "share bob all", "share cy times", zoneLine("Y", eastern), "as bob", "here Y", "as cy", "here Y", "as ann", "here Y", east),
+		[]step{tells("show", eastward), {"show" + atZero, "0"}, tells("look ann", eastward)},
+		ok("as bob"), []step{tells("look ann", eastward), {"look ann" + atZero, "0"}},
+		ok("as cy"), []step{{"look ann" + eastward, "1\n" + eastward[1:]}, {"look ann" + atZero, "0"}},
+		[]step{{"meet PT1H PT30M 20240304T113000 20240304T140000 ann", "20240304T130000"}, {"meet PT1H PT30M 20240304T083000 20240304T110000 ann", "20240304T083000"}},
+		ok(west), []step{{"look ann" + westward, "1\n" + westward[1:]}, {"meet PT1H PT30M 20240304T033000 20240304T060000 ann", "20240304T050000"}},
+		ok("as ann"), []step{tells("show", westward), {"show" + eastward, "0"}},
+	)...)
+	wantSteps(t, "14.3: a zone that is not set anew", join(house(),
+		ok(putLine(tea("a", 0)), east, "here Y"),
+		fails(api.ErrForm, zoneLine("Y", "x")), fails(api.ErrMissing, zoneLine("Y", ""), "here Z"), fails(api.ErrName, zoneLine("Y!", eastern)),
+		[]step{tells("show", eastward)},
+		ok(zoneLine("Z", "era -05:00 -"), zoneLine("y", plain), "user dan"), []step{tells("show", eastward)},
+		ok("here Z"), []step{tells("show", westward)}, ok(zoneLine("Y", plain)), []step{tells("show", westward)},
+	)...)
+	wantSteps(t, "14.3: offset 0 is no zone that is set", join(house(),
+		ok(putLine(tea("a", 0)), "share bob all", zoneLine("-", eastern)), []step{tells("show", atZero)},
+		ok("here -", zoneLine("-", "era -05:00 -"), east), []step{tells("show", atZero)},
+		ok("here Y", "here -", west), []step{tells("show", atZero)},
+		ok("here Y", "here ", east), []step{tells("show", atZero)},
+		ok("as bob"), []step{tells("look ann", atZero)},
+	)...)
+	late, last := compact(lastTime-1), compact(lastTime)
+	wantSteps(t, "14.3: the ends of all times, by a zone that is set anew", join(
+		ok("user ann", "as ann", putLine(api.Event{Uid: "a", Title: "tea", Start: lastTime - 1, Length: hour}), east, "here Y", zoneLine("Y", plain)),
+		[]step{{"show " + late + " " + last, "1\n" + late + " - a tea"}},
+		ok(west), fails(api.ErrRange, "show "+late+" "+last),
+		ok(east), []step{{"show " + late + " " + last, "0"}},
+		ok(zoneLine("Y", plain)), []step{{"show " + late + " " + last, "1\n" + late + " - a tea"}},
 	)...)
 }
 
